@@ -292,7 +292,7 @@ func TestEncrypt(t *testing.T) {
 	}
 }
 
-// The text is long because the values of the key stream repeat, modulo 256, until the hash first passes Modulus, after about 2147 indices.
+// The text is long because the values of the key stream repeat, modulo 256, until the hash first passes Modulus, which may take some 2147 indices.
 func TestCipherShiftsEachByte(t *testing.T) {
 	b := make([]byte, 5000)
 	for i := range b {
