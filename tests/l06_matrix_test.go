@@ -765,23 +765,25 @@ func copyRows(m [][]int) [][]int {
 // spoil overwrites all memory of a matrix, spare capacity included, row by row; it tells whether a row shares memory with an earlier one.
 func spoil(m [][]int) bool {
 	shared := false
-	for i, row := range m {
+	rows := m[:cap(m)]
+	for i, row := range rows {
 		all := row[:cap(row)]
 		shared = shared || slices.Contains(all, -777)
 		for j := range all {
 			all[j] = -777
 		}
-		m[i] = nil
-	}
-	rest := m[len(m):cap(m)]
-	for i := range rest {
-		rest[i] = []int{-777}
+		rows[i] = []int{-777}
 	}
 	return shared
 }
 
 func TestMatrixResultsAreNewMemory(t *testing.T) {
-	for name, call := range matrixResults {
+	expectNewMatrices(t, matrixResults)
+}
+
+func expectNewMatrices(t *testing.T, results map[string]func(m [][]int, v []int) [][]int) {
+	t.Helper()
+	for name, call := range results {
 		m, mChanged := matrixWithSpare([][]int{{1, 2, 1018}, {0, 5, 7}, {1, 2, 1018}})
 		v, vChanged := intsWithSpare([]int{3, 1, 510})
 		first, second := call(m, v), call(m, v)
@@ -819,34 +821,39 @@ func TestRowsShareNoMemory(t *testing.T) {
 
 // productResults are calls of MulMatrixVector; some of them have a result equal to an argument.
 var productResults = map[string]func(m [][]int, v []int) []int{
-	"with a vector":           func(m [][]int, v []int) []int { return impl.MulMatrixVector(m, v) },
-	"with a row":              func(m [][]int, v []int) []int { return impl.MulMatrixVector(m, m[0]) },
-	"of the identity":         func(m [][]int, v []int) []int { return impl.MulMatrixVector(impl.Identity(3), v) },
-	"of the identity, a row":  func(m [][]int, v []int) []int { return impl.MulMatrixVector(impl.Identity(3), m[1]) },
-	"with a unit vector":      func(m [][]int, v []int) []int { return impl.MulMatrixVector(m, []int{0, 1, 0}) },
-	"of one row and one unit": func(m [][]int, v []int) []int { return impl.MulMatrixVector([][]int{v[:1]}, []int{1}) },
-	"of empty rows":           func(m [][]int, v []int) []int { return impl.MulMatrixVector([][]int{v[:0], v[:0]}, v[:0]) },
-	"of no rows":              func(m [][]int, v []int) []int { return impl.MulMatrixVector(m[:0], v[:0]) },
-	"rejected":                func(m [][]int, v []int) []int { return impl.MulMatrixVector(m, v[:2]) },
+	"MulMatrixVector with a vector":           func(m [][]int, v []int) []int { return impl.MulMatrixVector(m, v) },
+	"MulMatrixVector with a row":              func(m [][]int, v []int) []int { return impl.MulMatrixVector(m, m[0]) },
+	"MulMatrixVector of the identity":         func(m [][]int, v []int) []int { return impl.MulMatrixVector(impl.Identity(3), v) },
+	"MulMatrixVector of the identity, a row":  func(m [][]int, v []int) []int { return impl.MulMatrixVector(impl.Identity(3), m[1]) },
+	"MulMatrixVector with a unit vector":      func(m [][]int, v []int) []int { return impl.MulMatrixVector(m, []int{0, 1, 0}) },
+	"MulMatrixVector of one row and one unit": func(m [][]int, v []int) []int { return impl.MulMatrixVector([][]int{v[:1]}, []int{1}) },
+	"MulMatrixVector of empty rows":           func(m [][]int, v []int) []int { return impl.MulMatrixVector([][]int{v[:0], v[:0]}, v[:0]) },
+	"MulMatrixVector of no rows":              func(m [][]int, v []int) []int { return impl.MulMatrixVector(m[:0], v[:0]) },
+	"MulMatrixVector rejected":                func(m [][]int, v []int) []int { return impl.MulMatrixVector(m, v[:2]) },
 }
 
 func TestProductsWithAVectorAreNewMemory(t *testing.T) {
-	for name, call := range productResults {
+	expectNewVectors(t, productResults)
+}
+
+func expectNewVectors(t *testing.T, results map[string]func(m [][]int, v []int) []int) {
+	t.Helper()
+	for name, call := range results {
 		m, mChanged := matrixWithSpare([][]int{{1, 2, 1018}, {0, 5, 7}, {1, 2, 1018}})
 		v, vChanged := intsWithSpare([]int{3, 1, 510})
 		first, second := call(m, v), call(m, v)
 		want := slices.Clone(second)
 		if mChanged() || vChanged() {
-			t.Errorf("MulMatrixVector %s changes an argument", name)
+			t.Errorf("%s changes an argument", name)
 		}
 		for i := range first[:cap(first)] {
 			first[:cap(first)][i] = -777
 		}
 		if mChanged() || vChanged() {
-			t.Errorf("MulMatrixVector %s returns memory of an argument", name)
+			t.Errorf("%s returns memory of an argument", name)
 		}
 		if !slices.Equal(second, want) || !slices.Equal(call(m, v), want) {
-			t.Errorf("MulMatrixVector %s returns the same memory twice", name)
+			t.Errorf("%s returns the same memory twice", name)
 		}
 	}
 }
